@@ -310,8 +310,10 @@ func TestNoOrderOfEveryThreeIsBetter(t *testing.T) {
 			id := []int64{2, 1, 3}[i]
 			list = append(list, asked(id, 1+kind%3, kind/3%4+int64(i), kind/12))
 		}
-		looksRuled(t, list)
-		looksBest(t, list, bestOfEvery(list))
+		for n := range 4 {
+			looksRuled(t, list[:n])
+			looksBest(t, list[:n], bestOfEvery(list[:n]))
+		}
 	}
 }
 
