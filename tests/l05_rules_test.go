@@ -9,7 +9,7 @@ import (
 	"loop.example/g00255/impl"
 )
 
-// rule is one of the chapter's orders, and its words told anew: which of two is ahead, and the fields that it looks at.
+// rule is an order of Jobs that a chapter tells, and its words told anew: which of two is ahead, and the fields that it looks at.
 type rule struct {
 	name   string
 	of     func([]impl.Job) []impl.Job
@@ -17,6 +17,7 @@ type rule struct {
 	fields []string
 }
 
+// rules are those of this chapter.
 func rules() []rule {
 	return []rule{
 		{"Jackson", impl.Jackson, counted(dueAhead), []string{"Id", "Due"}},
@@ -24,6 +25,11 @@ func rules() []rule {
 		{"Shortest", impl.Shortest, counted(longAhead), []string{"Id", "Long"}},
 		{"Hodgson", impl.Hodgson, countHodgson, []string{"Id", "Long", "Due"}},
 	}
+}
+
+// allRules are those of later chapters as well: what is asked of one order is asked of each.
+func allRules() []rule {
+	return append(rules(), longest())
 }
 
 func dueAhead(a, b impl.Job) bool {
@@ -187,7 +193,7 @@ func looksBest(t *testing.T, list []impl.Job, want best) {
 // looksRuled holds each rule's order against its words told anew.
 func looksRuled(t *testing.T, list []impl.Job) {
 	t.Helper()
-	for _, r := range rules() {
+	for _, r := range allRules() {
 		if got, want := r.of(list), r.count(list); !slices.Equal(got, want) {
 			t.Fatalf("%s of %v:\n%v, not\n%v", r.name, list, got, want)
 		}
@@ -204,7 +210,7 @@ func looksIds(t *testing.T, what string, got []impl.Job, want ...int64) {
 func TestRulesOfNoJobsAndOfOne(t *testing.T) {
 	one := impl.Job{Id: 1000000, Cores: 1000, Long: 10000, Due: 3, Weight: 1000, Rank: 9, At: never}
 	least := impl.Job{Id: 1, Cores: 1, Long: 1}
-	for _, r := range rules() {
+	for _, r := range allRules() {
 		if a, b := r.of(nil), r.of([]impl.Job{}); len(a) != 0 || len(b) != 0 {
 			t.Errorf("%s of no Jobs: %v and %v", r.name, a, b)
 		}
@@ -392,7 +398,7 @@ func TestRulesOfAsManyJobsAsMayBe(t *testing.T) {
 	want := append(idsOf(rising)[:38], 40, 39)
 	looksIds(t, "the longest but one missed by one", impl.Hodgson(list), want...)
 	for _, n := range []int{41, 42, 80, 400} {
-		for _, r := range rules() {
+		for _, r := range allRules() {
 			if got := r.of(alike(n, 1, never, 1)); len(got) != 0 {
 				t.Errorf("%s of %d Jobs: %v", r.name, n, got)
 			}
@@ -409,7 +415,7 @@ func TestRulesDoNotHangOnTheOrderOfTheList(t *testing.T) {
 				k := d.below(int64(i) + 1)
 				other[i], other[k] = other[k], other[i]
 			}
-			for _, r := range rules() {
+			for _, r := range allRules() {
 				if a, b := r.of(list), r.of(other); !slices.Equal(a, b) {
 					t.Fatalf("%s of %v: %v, but in another order %v", r.name, list, a, b)
 				}
@@ -422,7 +428,7 @@ func TestRulesLookAtTheirFieldsAlone(t *testing.T) {
 	d := dice(53)
 	for range 20 {
 		list := thrownSingles(&d, 12, 9)
-		for _, r := range rules() {
+		for _, r := range allRules() {
 			want := idsOf(r.of(list))
 			for _, f := range jobFields() {
 				if slices.Contains(r.fields, f.name) {
@@ -443,7 +449,8 @@ func TestRulesLookAtTheirFieldsAlone(t *testing.T) {
 	}
 }
 
-func TestWrongJobsAreNotRuled(t *testing.T) {
+// spoiltLists are the wrong lists, and such as are right but for one place.
+func spoiltLists() [][]impl.Job {
 	lists := wrongLists()
 	for _, f := range jobFields() {
 		for _, n := range []int64{f.least - 1, f.most + 1, math.MinInt64, math.MaxInt64} {
@@ -461,8 +468,12 @@ func TestWrongJobsAreNotRuled(t *testing.T) {
 			lists = append(lists, list)
 		}
 	}
-	for _, list := range lists {
-		for _, r := range rules() {
+	return lists
+}
+
+func TestWrongJobsAreNotRuled(t *testing.T) {
+	for _, list := range spoiltLists() {
+		for _, r := range allRules() {
 			if got := r.of(list); len(got) != 0 {
 				t.Fatalf("%s of %v: %v", r.name, list, got)
 			}
@@ -470,10 +481,10 @@ func TestWrongJobsAreNotRuled(t *testing.T) {
 	}
 }
 
-// Promise 21 for chapter 5: nothing is written into the list, nor behind it, and what is answered is no part of it.
+// Promise 21 for each order: nothing is written into the list, nor behind it, and what is answered is no part of it.
 func TestRulesShareNoMemory(t *testing.T) {
 	for _, given := range append(append(singleLists(), wrongLists()...), alike(5, 3, 7, 1)) {
-		for _, r := range rules() {
+		for _, r := range allRules() {
 			list, all := behind(given)
 			one, two := r.of(list), r.of(list)
 			was := slices.Clone(two)
@@ -506,7 +517,7 @@ func TestRulesAnswerAtEveryArgument(t *testing.T) {
 				looksRuled(t, list)
 				continue
 			}
-			for _, r := range rules() {
+			for _, r := range allRules() {
 				if got := r.of(list); len(got) != 0 {
 					t.Fatalf("%s of %v: %v", r.name, list, got)
 				}
