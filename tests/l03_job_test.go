@@ -14,15 +14,15 @@ func job(id, rank, at, long int64) impl.Job {
 	return impl.Job{Id: id, Cores: 1, Long: long, Due: never, Rank: rank, At: at}
 }
 
-// jobField is a field of a Job, and from where to where it goes.
-type jobField struct {
+// fieldOf is a field of something, and from where to where it goes.
+type fieldOf[T any] struct {
 	name        string
 	least, most int64
-	of          func(*impl.Job) *int64
+	of          func(*T) *int64
 }
 
-func jobFields() []jobField {
-	return []jobField{
+func jobFields() []fieldOf[impl.Job] {
+	return []fieldOf[impl.Job]{
 		{"Id", 1, 1000000, func(j *impl.Job) *int64 { return &j.Id }},
 		{"Cores", 1, 1000, func(j *impl.Job) *int64 { return &j.Cores }},
 		{"Long", 1, 10000, func(j *impl.Job) *int64 { return &j.Long }},
@@ -33,25 +33,31 @@ func jobFields() []jobField {
 	}
 }
 
-func with(j impl.Job, f jobField, n int64) impl.Job {
-	*f.of(&j) = n
-	return j
+func with[T any](right T, f fieldOf[T], n int64) T {
+	*f.of(&right) = n
+	return right
 }
 
-// wrongJobs are spoilt in one field each, by one and by as much as can be, and in all of them.
+// spoilt are a right one, wrong in one field each, by one and by as much as can be.
+func spoilt[T any](right T, fields []fieldOf[T]) []T {
+	out := []T{}
+	for _, f := range fields {
+		for _, n := range []int64{f.least - 1, f.most + 1, -f.most, math.MinInt64, math.MinInt64 + f.most, math.MaxInt64 - f.most, math.MaxInt64} {
+			if n < f.least || n > f.most {
+				out = append(out, with(right, f, n))
+			}
+		}
+	}
+	return out
+}
+
+// wrongJobs are spoilt in one field each, and in all of them.
 func wrongJobs() []impl.Job {
 	out := []impl.Job{{}, {Id: 1, Cores: 1}, {Id: 1, Long: 1}, {Cores: 1, Long: 1}}
 	for _, ends := range []int64{math.MinInt64, math.MaxInt64, -1} {
 		out = append(out, impl.Job{Id: ends, Cores: ends, Long: ends, Due: ends, Weight: ends, Rank: ends, At: ends})
 	}
-	for _, f := range jobFields() {
-		for _, n := range []int64{f.least - 1, f.most + 1, -f.most, math.MinInt64, math.MinInt64 + f.most, math.MaxInt64 - f.most, math.MaxInt64} {
-			if n < f.least || n > f.most {
-				out = append(out, with(job(3, 2, 1, 5), f, n))
-			}
-		}
-	}
-	return out
+	return append(out, spoilt(job(3, 2, 1, 5), jobFields())...)
 }
 
 // dice throws the same on each run.
@@ -353,11 +359,15 @@ func TestWrongJobsAreNotQueued(t *testing.T) {
 	}
 }
 
-// behind is list with spare room behind it, where something stands already, and a copy of all that.
-func behind(list []impl.Job) (roomy, all []impl.Job) {
-	all = append(slices.Clone(list), job(7, 7, 7, 7), impl.Job{Id: -5}, job(8, 8, 8, 8))
+// roomFor is list with spare room behind it, where something stands already, and a copy of all that.
+func roomFor[T any](list []T, spare ...T) (roomy, all []T) {
+	all = slices.Concat(list, spare)
 	roomy = slices.Clone(all)
 	return roomy[:len(list)], all
+}
+
+func behind(list []impl.Job) (roomy, all []impl.Job) {
+	return roomFor(list, job(7, 7, 7, 7), impl.Job{Id: -5}, job(8, 8, 8, 8))
 }
 
 // Promise 21 for chapter 3: nothing is written into the list, nor behind it, and what is answered is no part of it.

@@ -45,10 +45,10 @@ func longAhead(a, b impl.Job) bool {
 	return a.Long < b.Long || a.Long == b.Long && a.Id < b.Id
 }
 
-// counted puts each Job where there are as many ahead of it; no sort can go wrong in it.
-func counted(ahead func(a, b impl.Job) bool) func([]impl.Job) []impl.Job {
-	return func(list []impl.Job) []impl.Job {
-		out := make([]impl.Job, len(list))
+// counted puts each one where there are as many ahead of it; no sort can go wrong in it.
+func counted[T any](ahead func(a, b T) bool) func([]T) []T {
+	return func(list []T) []T {
+		out := make([]T, len(list))
 		for _, j := range list {
 			n := 0
 			for _, k := range list {
@@ -96,7 +96,7 @@ func countHodgson(list []impl.Job) []impl.Job {
 }
 
 // everyOrder shows each order of the list; what is shown lasts till the next one.
-func everyOrder(list []impl.Job, see func([]impl.Job)) {
+func everyOrder[T any](list []T, see func([]T)) {
 	own := slices.Clone(list)
 	var from func(int)
 	from = func(n int) {
