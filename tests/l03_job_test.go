@@ -366,6 +366,28 @@ func roomFor[T any](list []T, spare ...T) (roomy, all []T) {
 	return roomy[:len(list)], all
 }
 
+// looksStill looks whether a list and the spare room behind it are as they were.
+func looksStill[T comparable](t *testing.T, what string, roomy, all []T) {
+	t.Helper()
+	if now := roomy[:len(all)]; !slices.Equal(now, all) {
+		t.Fatalf("%s: %v became %v", what, all, now)
+	}
+}
+
+// looksUnshared spoils an answer and the spare room behind it: no other answer may be spoilt by that.
+func looksUnshared[T comparable](t *testing.T, what string, junk T, answer func() []T) {
+	t.Helper()
+	one, two := answer(), answer()
+	was := slices.Clone(two)
+	one = one[:cap(one)]
+	for i := range one {
+		one[i] = junk
+	}
+	if !slices.Equal(two, was) || !slices.Equal(answer(), was) {
+		t.Fatalf("%s: two answers share memory", what)
+	}
+}
+
 func behind(list []impl.Job) (roomy, all []impl.Job) {
 	return roomFor(list, job(7, 7, 7, 7), impl.Job{Id: -5}, job(8, 8, 8, 8))
 }

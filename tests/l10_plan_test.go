@@ -728,21 +728,13 @@ func TestPlansShareNoMemory(t *testing.T) {
 				if now := p.Levels[:len(p.Levels)+3]; p.Total != given.Total || !slices.Equal(now, wide) {
 					t.Fatalf("%s: the Profile %v became %v", what, wide, now)
 				}
-				if now := list[:len(all)]; !slices.Equal(now, all) {
-					t.Fatalf("%s: the list %v became %v", what, all, now)
-				}
+				looksStill(t, what, list, all)
 			}
 			for _, plan := range []func(impl.Profile, []impl.Job, int64) []int64{impl.Planned, impl.Strict} {
-				one, two := plan(p, list, 2), plan(p, list, 2)
+				answer := func() []int64 { return plan(p, list, 2) }
+				looksUnshared(t, "a plan", -77, answer)
 				looks("a plan")
-				was := slices.Clone(two)
-				for i := range one[:cap(one)] {
-					one[:cap(one)][i] = -77
-				}
-				if !slices.Equal(two, was) || !slices.Equal(plan(p, list, 2), was) {
-					t.Fatalf("of %v with %v: two answers share memory", given, right)
-				}
-				for _, told := range [][]int64{two, slices.Repeat([]int64{-1}, len(list)), slices.Repeat([]int64{never}, len(list)), make([]int64, len(list))} {
+				for _, told := range [][]int64{answer(), slices.Repeat([]int64{-1}, len(list)), slices.Repeat([]int64{never}, len(list)), make([]int64, len(list))} {
 					starts, own := roomFor(told, 7, 0, -5)
 					impl.PlanOk(p, list, starts)
 					impl.Makespan(list, starts)
@@ -756,9 +748,7 @@ func TestPlansShareNoMemory(t *testing.T) {
 						}
 					}
 					looks("Left")
-					if now := starts[:len(own)]; !slices.Equal(now, own) {
-						t.Fatalf("the starts %v became %v", own, now)
-					}
+					looksStill(t, "the starts", starts, own)
 				}
 			}
 		}
