@@ -112,24 +112,16 @@ func countInUse(s impl.State) []int64 {
 	return out
 }
 
-// endOf is when e is over; from Never on it is Never.
+// endOf is when e is over; it may be above Never.
 func endOf(e impl.Entry) int64 {
-	return min(e.Start+e.Job.Long, never)
+	return e.Start + e.Job.Long
 }
 
 // countOutlook asks at each time at which something ends who still runs then.
 func countOutlook(s impl.State) impl.Profile {
 	ends, total := []int64{0}, int64(0)
-	left := func(e impl.Entry) int64 {
-		if endOf(e) == never {
-			return never
-		}
-		return endOf(e) - s.Now
-	}
 	for _, e := range runsNow(s) {
-		if left(e) > 0 && left(e) < never {
-			ends = append(ends, left(e))
-		}
+		ends = append(ends, max(0, endOf(e)-s.Now))
 	}
 	for _, n := range s.Nodes {
 		if n.State == 1 {
@@ -142,7 +134,7 @@ func countOutlook(s impl.State) impl.Profile {
 		free := total
 		for _, e := range runsNow(s) {
 			for _, p := range e.Parts {
-				if s.Nodes[p.Node].State == 1 && left(e) > t {
+				if s.Nodes[p.Node].State == 1 && endOf(e) > s.Now+t {
 					free -= p.Cores
 				}
 			}
@@ -284,9 +276,9 @@ func looksNoState(t *testing.T, what string, s impl.State) {
 	}
 }
 
-// waitsInVain tells whether somebody waits who is planned for now and could be run. Where somebody runs till Never it is not asked: Outlook has his Cores till then, but what he was planned with had them for his Long alone.
+// waitsInVain tells whether somebody waits who is planned for now and could be run. Where there is no Epoch left nobody could.
 func waitsInVain(s impl.State) bool {
-	if s.Epochs == maxId || slices.ContainsFunc(runsNow(s), func(e impl.Entry) bool { return endOf(e) == never }) {
+	if s.Epochs == maxId {
 		return false
 	}
 	p, is := impl.Outlook(s)
@@ -706,6 +698,161 @@ func TestNobodyIsPushedBack(t *testing.T) {
 	}
 }
 
+// Who is begun shortly ahead of Never has its cores for its Long, as it was planned: those behind it are planned behind that.
+func TestRunsThatGoPastNever(t *testing.T) {
+	for _, c := range []struct {
+		cores, now int64
+		jobs       []impl.Command
+		running    []int64
+		outlook    []impl.Level
+		waits      []int64
+		starts     []int64
+	}{
+		{5, never - 1, []impl.Command{command(1, 2, 1, 2), command(1, 3, 6, 0), command(1, 5, 1, 1)}, []int64{1}, []impl.Level{at(0, 3), at(1, 5)}, []int64{3, 2}, []int64{1, 2}},
+		{5, never - 1, []impl.Command{command(1, 2, 1, 2), command(1, 3, 1, 0), command(1, 5, 1, 1)}, []int64{1, 2}, []impl.Level{at(0, 0), at(1, 5)}, []int64{3}, []int64{1}},
+		{9, never - 5, []impl.Command{command(1, 5, 2, 1), command(1, 2, 6, 4), command(1, 4, 7, 1), command(1, 3, 7, 3)}, []int64{2, 4}, []impl.Level{at(0, 4), at(6, 6), at(7, 9)}, []int64{1, 3}, []int64{6, 7}},
+		{9, never - 5, []impl.Command{command(1, 5, 2, 1), command(1, 2, 6, 4), command(1, 4, 6, 1), command(1, 3, 7, 3)}, []int64{2, 3, 4}, []impl.Level{at(0, 0), at(6, 6), at(7, 9)}, []int64{1}, []int64{6}},
+		{4, never - 1, []impl.Command{command(1, 3, 10000, 9), command(1, 1, 10000, 0), command(1, 4, 2, 1), command(1, 1, 1, 0)}, []int64{1, 2}, []impl.Level{at(0, 0), at(10000, 4)}, []int64{3, 4}, []int64{10000, 10002}},
+	} {
+		s := looksAppliedFrom(t, begunAt(t, up(c.cores), 0), command(6, 0, 0, 0))
+		s = looksAppliedFrom(t, s, command(3, c.now, 0, 0))
+		for _, j := range c.jobs {
+			s = looksAppliedFrom(t, s, j)
+		}
+		s = looksAppliedFrom(t, s, command(5, 0, 0, 0))
+		looksState(t, s)
+		running, waits := []int64{}, []int64{}
+		for _, e := range runsNow(s) {
+			running = append(running, e.Job.Id)
+		}
+		for _, j := range impl.Waits(s) {
+			waits = append(waits, j.Id)
+		}
+		p, is := impl.Outlook(s)
+		if !slices.Equal(running, c.running) || !is || !same(p, profile(c.cores, c.outlook...)) || !slices.Equal(waits, c.waits) || !slices.Equal(impl.Planned(p, impl.Waits(s), 0), c.starts) {
+			t.Errorf("%v at %d: %v run, Outlook %v, %v, %v wait, planned for %v", c.jobs, c.now, running, p, is, waits, impl.Planned(p, impl.Waits(s), 0))
+		}
+	}
+}
+
+// passed tells whether somebody runs till Never or past it; and whether somebody waits behind one ahead of him, who could else be run.
+func passed(s impl.State) (runs bool, behind bool) {
+	for _, e := range runsNow(s) {
+		runs = runs || endOf(e) >= never
+	}
+	p, _ := impl.Outlook(s)
+	waits := impl.Waits(s)
+	for i, start := range impl.Planned(p, waits, 0) {
+		_, can := impl.Picked(s.Nodes, impl.InUse(s), waits[i].Cores)
+		behind = behind || can && start > 0
+	}
+	return runs, behind
+}
+
+// nearScript are some Jobs of unlike Rank, Cores and Long, that are asked for while all Nodes are down or up, some of them cancelled or done, and the Nodes then up; with a tick now and then.
+func nearScript(d *dice, s impl.State) []impl.Command {
+	script, total := []impl.Command{}, int64(0)
+	for k, n := range s.Nodes {
+		total += n.Cores
+		script = append(script, command([]int64{6, 6, 4, 5}[d.below(4)], int64(k), 0, 0))
+	}
+	for range 2 + d.below(5) {
+		script = append(script, command(1, 1+d.below(min(total, 1000)), 1+d.below([]int64{2, 8, 20, 10000}[d.below(4)]), d.below(10)))
+	}
+	for range d.below(3) {
+		script = append(script, command(2, 1+d.below(s.Next+1), 0, 0))
+	}
+	for _, e := range runsNow(s) {
+		if d.below(3) == 0 {
+			script = append(script, command(7, e.Job.Id, e.Epoch, 0))
+		}
+	}
+	if d.below(3) == 0 {
+		script = append(script, command(3, min(never-1, s.Now+d.below(4)), 0, 0))
+	}
+	mix(d, script)
+	for k := range s.Nodes {
+		script = append(script, command(5, int64(k), 0, 0))
+	}
+	return script
+}
+
+// Promise 13 at the end of all times: scripts behind a tick to Never less a few.
+func TestNobodyWaitsInVainAheadOfNever(t *testing.T) {
+	d, counted := dice(401), map[string]int{}
+	for round := range int64(250) {
+		nodes, _ := thrownNodes(&d, 1+round%4, []int64{2, 5, 9, 100}[d.below(4)])
+		s := begunAt(t, nodes, never-1-d.below(12))
+		for range 5 {
+			for _, c := range nearScript(&d, s) {
+				_, answer := impl.Applied(s, c)
+				s = looksAppliedFrom(t, s, c)
+				runs, behind := passed(s)
+				if answer >= 0 {
+					counted[[]string{"", "submit", "cancel", "tick", "drain", "up", "down", "done"}[c.Kind]]++
+				}
+				if runs && behind {
+					counted["behind"]++
+				}
+				if runs && s.Now == never-1 {
+					counted["at the last"]++
+				}
+			}
+			looksState(t, s)
+		}
+	}
+	for _, what := range []string{"submit", "cancel", "tick", "up", "down", "done", "behind", "at the last"} {
+		if counted[what] < 200 {
+			t.Errorf("but %d of %s", counted[what], what)
+		}
+	}
+}
+
+// allLater is s as it were if all had been later by so much.
+func allLater(s impl.State, by int64) impl.State {
+	s = ownState(s)
+	s.Now += by
+	for i := range s.Entries {
+		e := &s.Entries[i]
+		e.Job.At += by
+		if e.Epoch > 0 {
+			e.Start += by
+		}
+	}
+	return s
+}
+
+// Shortly ahead of Never all is as it is at any other time.
+func TestAheadOfNeverIsAsAnywhere(t *testing.T) {
+	d := dice(409)
+	wrong := []impl.Command{{}, command(8, 0, 0, 0), command(1, 0, 1, 0), command(4, 8, 0, 0)}
+	for round := range int64(200) {
+		nodes, by := thrownUp(&d, 1+round%8, []int64{1, 3, 8, 100}[d.below(4)]), never-1-d.below(30)
+		soon, late := begunAt(t, nodes, 0), begunAt(t, nodes, by)
+		for range 20 + d.below(60) {
+			c := thrownCommand(&d, soon, wrong)
+			then := c
+			if c.Kind == 3 {
+				then.A += by
+			}
+			if then.A >= never {
+				continue
+			}
+			was := late
+			next, answer := impl.Applied(soon, c)
+			later, same := impl.Applied(late, then)
+			if answer != same || !sameState(allLater(next, by), later) {
+				t.Fatalf("%v applied to\n%v:\n%v, %d; later by %d:\n%v, %d", c, soon, next, answer, by, later, same)
+			}
+			p, _ := impl.Outlook(next)
+			if q, is := impl.Outlook(later); !is || !slices.Equal(p.Levels, q.Levels) || p.Total != q.Total || waitsInVain(later) && answer >= 0 {
+				t.Fatalf("%v applied to\n%v: Outlook %v, not %v", then, was, q, p)
+			}
+			soon, late = next, later
+		}
+	}
+}
+
 // Outlook has nobody who is over, but till a tick its cores are used.
 func TestWhoIsOverHasItsCoresTillATick(t *testing.T) {
 	over := entry(waiter(1, 3, 5, 0, 0), 2, 1, 1, part(0, 3))
@@ -751,8 +898,10 @@ func TestOutlookTable(t *testing.T) {
 		{"one behind the other", 5, three, []impl.Entry{runs(5, 9, part(0, 1)), runs(1, 6, part(0, 1), part(2, 1)), runs(2, 3, part(2, 1)), runs(5, 4, part(0, 2), part(1, 4))}, []int64{4, 4, 2}, profile(7, at(0, 2), at(2, 4), at(4, 6), at(9, 7))},
 		{"all that is up", 5, three, []impl.Entry{runs(5, 10000, part(0, 4), part(2, 3))}, []int64{4, 0, 3}, profile(7, at(0, 0), at(10000, 7))},
 		{"till just ahead of Never", last - 5, three, []impl.Entry{runs(last-7, 7, part(0, 2))}, []int64{2, 0, 0}, profile(7, at(0, 5), at(5, 7))},
-		{"till Never", last - 5, three, []impl.Entry{runs(last-7, 8, part(0, 2))}, []int64{2, 0, 0}, profile(7, at(0, 5))},
-		{"past Never", last, three, []impl.Entry{runs(last, 10000, part(0, 2)), runs(last-7, 8, part(2, 1)), runs(last-7, 7, part(2, 1))}, []int64{2, 0, 2}, profile(7, at(0, 4))},
+		{"till Never", last - 5, three, []impl.Entry{runs(last-7, 8, part(0, 2))}, []int64{2, 0, 0}, profile(7, at(0, 5), at(6, 7))},
+		{"just past Never", last - 5, three, []impl.Entry{runs(last-7, 9, part(0, 2))}, []int64{2, 0, 0}, profile(7, at(0, 5), at(7, 7))},
+		{"till Never at the last", last, three, []impl.Entry{runs(last, 1, part(0, 2))}, []int64{2, 0, 0}, profile(7, at(0, 5), at(1, 7))},
+		{"past Never", last, three, []impl.Entry{runs(last, 10000, part(0, 2)), runs(last-7, 8, part(2, 1)), runs(last-7, 7, part(2, 1))}, []int64{2, 0, 2}, profile(7, at(0, 4), at(1, 5), at(10000, 7))},
 		{"eight Nodes", 0, slices.Repeat(up(100), 8), []impl.Entry{runs(0, 1, part(0, 100), part(7, 100)), runs(0, 2, part(3, 100), part(6, 99))}, []int64{100, 0, 0, 100, 0, 0, 99, 100}, profile(800, at(0, 401), at(1, 601), at(2, 800))},
 	} {
 		s := stateOf(c.now, c.nodes, 1+int64(len(c.entries)), 9)
